@@ -187,6 +187,9 @@ func TestRecordTooLong(t *testing.T) {
 	for i := range api.MaxRecord + 1 {
 		f.Entries = append(f.Entries, entry{Sector: i, Page: i})
 	}
+	f.Next = math.MaxUint64
+	gives(t, "Checkpoint without a number, too", started(t, device(t, g), 1<<17, f).Checkpoint(), api.ErrArg)
+	f.Next = 1
 	a := started(t, device(t, g), 1<<17, f)
 	gives(t, "Checkpoint", a.Checkpoint(), api.ErrLong)
 	shows(t, a, numbers{1, 3968, 0, 0, 0})
